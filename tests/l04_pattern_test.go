@@ -468,6 +468,29 @@ func TestLongTexts(t *testing.T) {
 	}
 }
 
+// As what is known may be kept from place to place up to some length, texts on both sides of it are asked.
+func TestFindInTextsOfAboutMaxVal(t *testing.T) {
+	for k := range uint64(300) {
+		r := rand.New(rand.NewPCG(4, k))
+		p := drawnPattern(r, 1+r.IntN(6))
+		for _, length := range []int{39, 40, 41, 42} {
+			s := strings.Repeat("b", r.IntN(length)) + drawnText(r, length)
+			s = s[:length]
+			all := grids(p, s)
+			checkFind(t, p, s, all[len(all)-1])
+		}
+	}
+	for pattern, want := range map[string]int{"((a*)*(a*)*)*(a|a)*b": -1, "((a*)*(a*)*)*(a|a)*": 0, "a$": 1} {
+		for _, length := range []int{39, 40, 41, 60} {
+			p, s := mustRead(t, pattern), strings.Repeat("a", length)
+			begin, end, ok := impl.FindIn(p, s)
+			if wantBegin := (length - 1) * want; ok != (want >= 0) || ok && (begin != wantBegin || end != length) {
+				t.Errorf("FindIn of %q in %d bytes = %d, %d, %v", pattern, length, begin, end, ok)
+			}
+		}
+	}
+}
+
 func TestBeginAndEnd(t *testing.T) {
 	p := patternOf(one(impl.PaBegin, ""), one(impl.PaEnd, ""), one(impl.PaNone, ""))
 	checkEnds(t, p, 0, "", 0, []int{0})

@@ -12,7 +12,7 @@ import (
 
 func checkSame(t *testing.T, what string, got impl.Store, want impl.Store) {
 	t.Helper()
-	if toldStore(got) != toldStore(want) {
+	if !slices.Equal(got.Vars, want.Vars) || !slices.Equal(got.Cells, want.Cells) || got.Out != want.Out {
 		t.Fatalf("%s is\n%.2000s\nwant\n%.2000s", what, toldStore(got), toldStore(want))
 	}
 }
@@ -551,6 +551,23 @@ func TestDumpOfMoreThanFits(t *testing.T) {
 		// None is said, so that nothing is cut.
 		if d := checkDump(t, s, "z"); d.Out != s.Out {
 			t.Errorf("behind %d bytes of nothing %d are told", before, len(d.Out))
+		}
+	}
+}
+
+func TestDumpOfJustWhatFits(t *testing.T) {
+	// What the first 37 cells say is as long as told, behind which there is one more.
+	for said := 2994; said < 3006; said++ {
+		list := []impl.Cell{}
+		for i := range 36 {
+			list = append(list, impl.Cell{Name: "t", Key: fmt.Sprintf("%040d", i), Val: strings.Repeat("v", 40)})
+		}
+		list = append(list, impl.Cell{Name: "t", Key: "1", Val: strings.Repeat("w", said-36*82-3)}, impl.Cell{Name: "t", Key: "2", Val: "x"})
+		for _, out := range []string{"", "o", strings.Repeat("o", 10)} {
+			s := impl.Store{Cells: list, Out: out}
+			if d := checkDump(t, s, "t"); len(d.Out) != min(said+4+len(out), 3000) {
+				t.Errorf("of %d bytes behind %d it says %d", said, len(out), len(d.Out))
+			}
 		}
 	}
 }
